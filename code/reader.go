@@ -14,16 +14,15 @@ const (
 	maxLastByte = 1
 )
 
-// Reader decodes values, one after another. Its unexported methods panic where
-// they cannot decode: a summary has many parts, each of which may fail, and
-// none of them has to look after the failures of the others. The exported
-// methods catch the panic.
+// Reader decodes values, one after another.
 type Reader struct {
 	rest   []byte
 	failed bool
 }
 
-// undecodable is the panic of the methods that cannot decode.
+// undecodable is what the unexported methods panic with where they cannot
+// decode: a summary has many parts, each of which may fail, and none of them has
+// to look after the failures of the others. The exported methods catch it.
 type undecodable struct{}
 
 // NewReader returns a Reader of a copy of b: what happens to b later must not
